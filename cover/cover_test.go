@@ -10,86 +10,8 @@ import (
 	"flocculus/addr"
 	"flocculus/api"
 	"flocculus/cover"
+	"flocculus/edges"
 )
-
-const ones = math.MaxUint64
-
-// samples are addresses whose bits turn at both ends, at the edge of the words, often and never.
-var samples = []api.Addr{
-	{},
-	{Hi: ones, Lo: ones},
-	{Hi: 1, Lo: 1 << 63},
-	{Hi: 1 << 63, Lo: 1},
-	{Hi: 0xAAAAAAAAAAAAAAAA, Lo: 0x5555555555555555},
-	{Hi: 0x20010DB885A30000, Lo: 0x00008A2E03707334},
-}
-
-// lengths are the ones at the edges of an address and of its words, and some between.
-var lengths = []int{0, 1, 2, 7, 8, 31, 62, 63, 64, 65, 66, 100, 119, 120, 126, 127, 128}
-
-// wild are numbers that no length is.
-var wild = []int{math.MinInt, math.MinInt + 1, math.MinInt32, -256, -129, -2, -1, 129, 130, 136, 256, math.MaxInt32, math.MaxInt - 1, math.MaxInt}
-
-// wrong are prefixes that are none: a bit behind the length is on, or the length is none.
-var wrong = []api.Prefix{
-	{Addr: api.Addr{Hi: 1 << 63}},
-	{Addr: api.Addr{Lo: 1}},
-	{Addr: api.Addr{Lo: 1}, Len: 127},
-	{Addr: api.Addr{Hi: 1}, Len: 63},
-	{Addr: api.Addr{Lo: 1 << 63}, Len: 64},
-	{Addr: api.Addr{Hi: 10<<56 | 1<<55}, Len: 8},
-	{Addr: api.Addr{Hi: ones, Lo: ones}, Len: 120},
-	{Len: -1},
-	{Len: math.MinInt},
-	{Len: 129},
-	{Len: 136},
-	{Len: math.MaxInt},
-	{Addr: api.Addr{Hi: ones, Lo: ones}, Len: 129},
-	{Addr: api.Addr{Hi: ones, Lo: ones}, Len: -1},
-}
-
-// hops are numbers that a route can lead to: any.
-var hops = []int{0, 1, -1, 7, 300, math.MaxInt, math.MinInt}
-
-// flip turns bit i of a.
-func flip(a api.Addr, i int) api.Addr {
-	if i < 64 {
-		a.Hi ^= 1 << (63 - i)
-	} else {
-		a.Lo ^= 1 << (127 - i)
-	}
-	return a
-}
-
-// first is the prefix of the first n bits of a.
-func first(a api.Addr, n int) api.Prefix {
-	return api.Prefix{Addr: addr.Cut(a, n), Len: n}
-}
-
-// read is the prefix whose bits are the noughts and ones of text.
-func read(text string) api.Prefix {
-	var a api.Addr
-	for i, c := range text {
-		if c == '1' {
-			a = flip(a, i)
-		}
-	}
-	return api.Prefix{Addr: a, Len: len(text)}
-}
-
-// route leads the prefix of text to hop.
-func route(text string, hop int) api.Route {
-	return api.Route{Prefix: read(text), Hop: hop}
-}
-
-// chain has the first n bits of a, for each n, lead to n + 1000.
-func chain(a api.Addr) []api.Route {
-	var out []api.Route
-	for n := range 129 {
-		out = append(out, api.Route{Prefix: first(a, n), Hop: n + 1000})
-	}
-	return out
-}
 
 // answer is what Hop answers.
 type answer struct {
@@ -103,7 +25,7 @@ func said(hop int, ok bool) answer { return answer{hop, ok} }
 func plainHop(l []api.Route, k api.Prefix, low int) answer {
 	for n := min(k.Len, 128); n >= 0 && n > low; n-- {
 		for i := len(l) - 1; i >= 0; i-- {
-			if l[i].Prefix == first(k.Addr, n) {
+			if l[i].Prefix == edges.First(k.Addr, n) {
 				return answer{l[i].Hop, true}
 			}
 		}
@@ -122,7 +44,7 @@ func plainSet(l []api.Route, low, high int) []api.Route {
 		keys := []api.Addr{p.Addr}
 		for i := p.Len; i < high; i++ {
 			for _, a := range keys {
-				keys = append(keys, flip(a, i))
+				keys = append(keys, edges.Flip(a, i))
 			}
 		}
 		for _, a := range keys {
@@ -139,24 +61,6 @@ func plainSet(l []api.Route, low, high int) []api.Route {
 		return cmp.Or(cmp.Compare(a.Hi, b.Hi), cmp.Compare(a.Lo, b.Lo))
 	})
 	return out
-}
-
-// each calls f with l in every order.
-func each(l []api.Route, f func([]api.Route)) {
-	var turn func(i int)
-	turn = func(i int) {
-		if i == len(l) {
-			f(slices.Clone(l))
-			return
-		}
-		for j := i; j < len(l); j++ {
-			l[i], l[j] = l[j], l[i]
-			turn(i + 1)
-			l[i], l[j] = l[j], l[i]
-		}
-	}
-	l = slices.Clone(l)
-	turn(0)
 }
 
 // hop fails the test where Hop is another, or turns l.
@@ -184,12 +88,12 @@ func set(t *testing.T, what string, l []api.Route, low, high int, want []api.Rou
 }
 
 func TestOfNothing(t *testing.T) {
-	bounds := append(slices.Clone(wild), lengths...)
+	bounds := append(edges.Wild(), edges.Lengths()...)
 	for _, l := range [][]api.Route{nil, {}, make([]api.Route, 0, 3)} {
 		for _, low := range bounds {
 			for _, high := range bounds {
 				set(t, "P1801: of nothing", l, low, high, nil)
-				hop(t, "P1801: of nothing", l, first(samples[5], min(max(high, 0), 128)), low, answer{})
+				hop(t, "P1801: of nothing", l, edges.First(edges.Samples()[5], min(max(high, 0), 128)), low, answer{})
 			}
 		}
 	}
@@ -197,12 +101,12 @@ func TestOfNothing(t *testing.T) {
 
 // TestHopOfOne has one route of each length: what is above low and at most the key's length is found, and the rest is not.
 func TestHopOfOne(t *testing.T) {
-	for _, a := range samples {
+	for _, a := range edges.Samples() {
 		for n := range 129 {
-			l := []api.Route{{Prefix: first(a, n), Hop: 5}}
-			for _, m := range append([]int{max(n-1, 0), n, min(n+1, 128)}, lengths...) {
+			l := []api.Route{{Prefix: edges.First(a, n), Hop: 5}}
+			for _, m := range append([]int{max(n-1, 0), n, min(n+1, 128)}, edges.Lengths()...) {
 				for _, low := range []int{math.MinInt, -2, -1, 0, n - 2, n - 1, n, n + 1, 128, math.MaxInt} {
-					hop(t, "P1801: of one", l, first(a, m), low, cond(n > low && n <= m, answer{5, true}, answer{}))
+					hop(t, "P1801: of one", l, edges.First(a, m), low, cond(n > low && n <= m, answer{5, true}, answer{}))
 				}
 			}
 		}
@@ -219,15 +123,15 @@ func cond(so bool, a, b answer) answer {
 
 // TestHopOfAnother has keys that differ from the route in one bit: only one behind the route's length leaves it the key's.
 func TestHopOfAnother(t *testing.T) {
-	for _, a := range samples {
-		for _, n := range lengths {
-			l := []api.Route{{Prefix: first(a, n), Hop: 5}}
+	for _, a := range edges.Samples() {
+		for _, n := range edges.Lengths() {
+			l := []api.Route{{Prefix: edges.First(a, n), Hop: 5}}
 			for i := range 128 {
 				want := answer{}
 				if i >= n {
 					want = answer{5, true}
 				}
-				hop(t, "P1801: a key with another bit", l, first(flip(a, i), 128), -1, want)
+				hop(t, "P1801: a key with another bit", l, edges.First(edges.Flip(a, i), 128), -1, want)
 			}
 		}
 	}
@@ -235,18 +139,18 @@ func TestHopOfAnother(t *testing.T) {
 
 // TestHopOfTheLongest has a route of each length, in two orders: the key's own is taken, or none where it is not above low.
 func TestHopOfTheLongest(t *testing.T) {
-	for _, a := range samples[2:5] {
-		l := chain(a)
+	for _, a := range edges.Samples()[2:5] {
+		l := edges.Chain(a)
 		back := slices.Clone(l)
 		slices.Reverse(back)
 		for n := range 129 {
-			for _, low := range append([]int{n - 1, n, n + 1}, wild...) {
+			for _, low := range append([]int{n - 1, n, n + 1}, edges.Wild()...) {
 				want := answer{}
 				if n > low {
 					want = answer{n + 1000, true}
 				}
-				hop(t, "P1801: the longest of all", l, first(a, n), low, want)
-				hop(t, "P1801: the longest of all, from the longest on", back, first(a, n), low, want)
+				hop(t, "P1801: the longest of all", l, edges.First(a, n), low, want)
+				hop(t, "P1801: the longest of all, from the longest on", back, edges.First(a, n), low, want)
 			}
 		}
 	}
@@ -254,8 +158,8 @@ func TestHopOfTheLongest(t *testing.T) {
 
 // TestHopGoesRoundGaps has routes of few lengths, and others beside the key.
 func TestHopGoesRoundGaps(t *testing.T) {
-	l := []api.Route{route("", 1), route("01", 2), route("0110", 3), route("011011", 4), route("0111", 5), route("00", 6), route("0110111", 7)}
-	key := read("01101100")
+	l := []api.Route{edges.Route("", 1), edges.Route("01", 2), edges.Route("0110", 3), edges.Route("011011", 4), edges.Route("0111", 5), edges.Route("00", 6), edges.Route("0110111", 7)}
+	key := edges.Read("01101100")
 	for _, x := range []struct {
 		n, low int
 		want   answer
@@ -266,21 +170,21 @@ func TestHopGoesRoundGaps(t *testing.T) {
 		{2, -1, answer{2, true}}, {1, -1, answer{1, true}}, {1, 0, answer{}},
 		{0, -1, answer{1, true}}, {0, 0, answer{}},
 	} {
-		each(l[:5], func(l []api.Route) { hop(t, "P1801: gaps", l, first(key.Addr, x.n), x.low, x.want) })
-		hop(t, "P1801: gaps", l, first(key.Addr, x.n), x.low, x.want)
+		edges.Each(l[:5], func(l []api.Route) { hop(t, "P1801: gaps", l, edges.First(key.Addr, x.n), x.low, x.want) })
+		hop(t, "P1801: gaps", l, edges.First(key.Addr, x.n), x.low, x.want)
 	}
 }
 
 // TestWrongKeys asks for the first bits of addresses, be there bits behind the length or not, and for lengths that no key has.
 func TestWrongKeys(t *testing.T) {
-	for _, a := range samples {
-		l := chain(a)
+	for _, a := range edges.Samples() {
+		l := edges.Chain(a)
 		for n := range 129 {
 			k := api.Prefix{Addr: a, Len: n}
 			hop(t, "P1801: a key with bits behind its length", l, k, -1, answer{n + 1000, true})
 			hop(t, "P1801: a key with bits behind its length", l, k, n, answer{})
 		}
-		for _, n := range wild {
+		for _, n := range edges.Wild() {
 			want := answer{}
 			if n > 128 {
 				want = answer{1128, true}
@@ -294,20 +198,20 @@ func TestWrongKeys(t *testing.T) {
 
 // TestWrongRoutes has routes of prefixes that are none, alone, ahead of right ones and behind them, none of which turns anything.
 func TestWrongRoutes(t *testing.T) {
-	for _, p := range wrong {
+	for _, p := range edges.Wrong() {
 		bad := []api.Route{{Prefix: p, Hop: 9}}
 		for _, low := range []int{math.MinInt, p.Len - 1, -3, -1, 0, 60} {
-			for _, high := range append([]int{p.Len, p.Len + 1}, lengths...) {
+			for _, high := range append([]int{p.Len, p.Len + 1}, edges.Lengths()...) {
 				set(t, "P1801: a wrong route", bad, low, high, nil)
 				hop(t, "P1801: a wrong route", bad, api.Prefix{Addr: p.Addr, Len: high}, low, answer{})
 				hop(t, "P1801: a wrong route", bad, api.Prefix{Addr: p.Addr, Len: p.Len}, low, answer{})
 
 				// The key that the wrong one could be taken for.
 				n := min(max(high, 0), 128)
-				good := []api.Route{{Prefix: first(p.Addr, n), Hop: 5}}
+				good := []api.Route{{Prefix: edges.First(p.Addr, n), Hop: 5}}
 				for _, l := range [][]api.Route{append(slices.Clone(good), bad...), append(slices.Clone(bad), good...)} {
 					set(t, "P1801: a right route and a wrong one", l, low, n, cover.Set(good, low, n))
-					hop(t, "P1801: a right route and a wrong one", l, first(p.Addr, n), low, cond(n > low, answer{5, true}, answer{}))
+					hop(t, "P1801: a right route and a wrong one", l, edges.First(p.Addr, n), low, cond(n > low, answer{5, true}, answer{}))
 				}
 			}
 		}
@@ -316,76 +220,76 @@ func TestWrongRoutes(t *testing.T) {
 
 // TestTheLastOfOnePrefixCounts has some prefixes several times, in every order.
 func TestTheLastOfOnePrefixCounts(t *testing.T) {
-	l := []api.Route{route("01", 1), route("01", 2), route("01", 3), route("0", 4), route("0", 5), route("011", 6)}
-	each(l, func(l []api.Route) {
+	l := []api.Route{edges.Route("01", 1), edges.Route("01", 2), edges.Route("01", 3), edges.Route("0", 4), edges.Route("0", 5), edges.Route("011", 6)}
+	edges.Each(l, func(l []api.Route) {
 		last := map[api.Prefix]int{}
 		for _, r := range l {
 			last[r.Prefix] = r.Hop
 		}
-		zero, two := last[read("0")], last[read("01")]
-		hop(t, "P1801: several of one prefix", l, read("010"), -1, answer{two, true})
-		hop(t, "P1801: several of one prefix", l, read("000"), -1, answer{zero, true})
-		hop(t, "P1801: several of one prefix", l, read("0"), -1, answer{zero, true})
-		hop(t, "P1801: several of one prefix", l, read("011"), -1, answer{6, true})
-		set(t, "P1801: several of one prefix", l, -1, 3, []api.Route{route("000", zero), route("001", zero), route("010", two), route("011", 6)})
-		set(t, "P1801: several of one prefix", l, 1, 2, []api.Route{route("01", two)})
-		set(t, "P1801: several of one prefix", l, 0, 1, []api.Route{route("0", zero)})
+		zero, two := last[edges.Read("0")], last[edges.Read("01")]
+		hop(t, "P1801: several of one prefix", l, edges.Read("010"), -1, answer{two, true})
+		hop(t, "P1801: several of one prefix", l, edges.Read("000"), -1, answer{zero, true})
+		hop(t, "P1801: several of one prefix", l, edges.Read("0"), -1, answer{zero, true})
+		hop(t, "P1801: several of one prefix", l, edges.Read("011"), -1, answer{6, true})
+		set(t, "P1801: several of one prefix", l, -1, 3, []api.Route{edges.Route("000", zero), edges.Route("001", zero), edges.Route("010", two), edges.Route("011", 6)})
+		set(t, "P1801: several of one prefix", l, 1, 2, []api.Route{edges.Route("01", two)})
+		set(t, "P1801: several of one prefix", l, 0, 1, []api.Route{edges.Route("0", zero)})
 	})
 }
 
 // TestAnyHop has each hop alone, ahead of and behind each other one, and on a route within one of the other.
 func TestAnyHop(t *testing.T) {
-	for _, one := range hops {
-		for _, two := range hops {
-			l := []api.Route{route("10", one), route("10", two)}
-			hop(t, "P1801: any hop", l[:1], read("10"), -1, answer{one, true})
-			hop(t, "P1801: any hop", l, read("10"), -1, answer{two, true})
-			set(t, "P1801: any hop", l, -1, 2, []api.Route{route("10", two)})
-			l = []api.Route{route("1", one), route("10", two)}
-			set(t, "P1801: any hop", l, -1, 2, []api.Route{route("10", two), route("11", one)})
-			hop(t, "P1801: any hop", l, read("11"), -1, answer{one, true})
-			hop(t, "P1801: any hop", l, read("10"), -1, answer{two, true})
+	for _, one := range edges.Hops() {
+		for _, two := range edges.Hops() {
+			l := []api.Route{edges.Route("10", one), edges.Route("10", two)}
+			hop(t, "P1801: any hop", l[:1], edges.Read("10"), -1, answer{one, true})
+			hop(t, "P1801: any hop", l, edges.Read("10"), -1, answer{two, true})
+			set(t, "P1801: any hop", l, -1, 2, []api.Route{edges.Route("10", two)})
+			l = []api.Route{edges.Route("1", one), edges.Route("10", two)}
+			set(t, "P1801: any hop", l, -1, 2, []api.Route{edges.Route("10", two), edges.Route("11", one)})
+			hop(t, "P1801: any hop", l, edges.Read("11"), -1, answer{one, true})
+			hop(t, "P1801: any hop", l, edges.Read("10"), -1, answer{two, true})
 		}
 	}
 }
 
 // TestSetByHand has routes side by side, within each other, and too short, in every order.
 func TestSetByHand(t *testing.T) {
-	l := []api.Route{route("", 1), route("01", 2), route("011", 3), route("1", 4), route("111", 5), route("0110", 6)}
+	l := []api.Route{edges.Route("", 1), edges.Route("01", 2), edges.Route("011", 3), edges.Route("1", 4), edges.Route("111", 5), edges.Route("0110", 6)}
 	for _, x := range []struct {
 		low, high int
 		want      []api.Route
 	}{
-		{-1, 0, []api.Route{route("", 1)}},
-		{-5, 0, []api.Route{route("", 1)}},
-		{-1, 1, []api.Route{route("0", 1), route("1", 4)}},
-		{0, 1, []api.Route{route("1", 4)}},
-		{-1, 2, []api.Route{route("00", 1), route("01", 2), route("10", 4), route("11", 4)}},
-		{0, 2, []api.Route{route("01", 2), route("10", 4), route("11", 4)}},
-		{1, 2, []api.Route{route("01", 2)}},
-		{-1, 3, []api.Route{route("000", 1), route("001", 1), route("010", 2), route("011", 3), route("100", 4), route("101", 4), route("110", 4), route("111", 5)}},
-		{0, 3, []api.Route{route("010", 2), route("011", 3), route("100", 4), route("101", 4), route("110", 4), route("111", 5)}},
-		{1, 3, []api.Route{route("010", 2), route("011", 3), route("111", 5)}},
-		{2, 3, []api.Route{route("011", 3), route("111", 5)}},
-		{1, 4, []api.Route{route("0100", 2), route("0101", 2), route("0110", 6), route("0111", 3), route("1110", 5), route("1111", 5)}},
-		{2, 4, []api.Route{route("0110", 6), route("0111", 3), route("1110", 5), route("1111", 5)}},
-		{3, 4, []api.Route{route("0110", 6)}},
-		{3, 5, []api.Route{route("01100", 6), route("01101", 6)}},
+		{-1, 0, []api.Route{edges.Route("", 1)}},
+		{-5, 0, []api.Route{edges.Route("", 1)}},
+		{-1, 1, []api.Route{edges.Route("0", 1), edges.Route("1", 4)}},
+		{0, 1, []api.Route{edges.Route("1", 4)}},
+		{-1, 2, []api.Route{edges.Route("00", 1), edges.Route("01", 2), edges.Route("10", 4), edges.Route("11", 4)}},
+		{0, 2, []api.Route{edges.Route("01", 2), edges.Route("10", 4), edges.Route("11", 4)}},
+		{1, 2, []api.Route{edges.Route("01", 2)}},
+		{-1, 3, []api.Route{edges.Route("000", 1), edges.Route("001", 1), edges.Route("010", 2), edges.Route("011", 3), edges.Route("100", 4), edges.Route("101", 4), edges.Route("110", 4), edges.Route("111", 5)}},
+		{0, 3, []api.Route{edges.Route("010", 2), edges.Route("011", 3), edges.Route("100", 4), edges.Route("101", 4), edges.Route("110", 4), edges.Route("111", 5)}},
+		{1, 3, []api.Route{edges.Route("010", 2), edges.Route("011", 3), edges.Route("111", 5)}},
+		{2, 3, []api.Route{edges.Route("011", 3), edges.Route("111", 5)}},
+		{1, 4, []api.Route{edges.Route("0100", 2), edges.Route("0101", 2), edges.Route("0110", 6), edges.Route("0111", 3), edges.Route("1110", 5), edges.Route("1111", 5)}},
+		{2, 4, []api.Route{edges.Route("0110", 6), edges.Route("0111", 3), edges.Route("1110", 5), edges.Route("1111", 5)}},
+		{3, 4, []api.Route{edges.Route("0110", 6)}},
+		{3, 5, []api.Route{edges.Route("01100", 6), edges.Route("01101", 6)}},
 		{4, 5, nil},
 		{3, 3, nil},
 		{3, 2, nil},
 		{0, 0, nil},
 		{-1, -1, nil},
 	} {
-		each(l, func(l []api.Route) { set(t, "P1801: by hand", l, x.low, x.high, x.want) })
+		edges.Each(l, func(l []api.Route) { set(t, "P1801: by hand", l, x.low, x.high, x.want) })
 	}
 }
 
 // TestSetOfOne has one route of each length, to each length: its keys, or none of them where they are more than MaxSpread.
 func TestSetOfOne(t *testing.T) {
-	for _, a := range samples {
+	for _, a := range edges.Samples() {
 		for n := range 129 {
-			l := []api.Route{{Prefix: first(a, n), Hop: n}}
+			l := []api.Route{{Prefix: edges.First(a, n), Hop: n}}
 			for high := range 131 {
 				want := 0
 				if high >= n && high <= 128 && high-n <= 8 {
@@ -403,7 +307,7 @@ func TestSetOfOne(t *testing.T) {
 
 // TestSetOfThoseTooShort has routes that make none beside, around and behind ones that make some.
 func TestSetOfThoseTooShort(t *testing.T) {
-	wide, narrow := route("", 1), route("0101", 2)
+	wide, narrow := edges.Route("", 1), edges.Route("0101", 2)
 	for _, x := range []struct {
 		high int
 		l    []api.Route
@@ -415,12 +319,12 @@ func TestSetOfThoseTooShort(t *testing.T) {
 		{9, []api.Route{wide, narrow}, 32},
 		{12, []api.Route{wide, narrow}, 256},
 		{13, []api.Route{wide, narrow}, 0},
-		{9, []api.Route{wide, narrow, route("0", 3)}, 256},
-		{9, []api.Route{wide, narrow, route("1", 3)}, 256 + 32},
-		{10, []api.Route{wide, narrow, route("1", 3), route("01", 4), route("010111", 5)}, 256},
-		{12, []api.Route{wide, narrow, route("0100", 3), route("01", 4), route("010111", 5)}, 512},
+		{9, []api.Route{wide, narrow, edges.Route("0", 3)}, 256},
+		{9, []api.Route{wide, narrow, edges.Route("1", 3)}, 256 + 32},
+		{10, []api.Route{wide, narrow, edges.Route("1", 3), edges.Route("01", 4), edges.Route("010111", 5)}, 256},
+		{12, []api.Route{wide, narrow, edges.Route("0100", 3), edges.Route("01", 4), edges.Route("010111", 5)}, 512},
 	} {
-		each(x.l, func(l []api.Route) {
+		edges.Each(x.l, func(l []api.Route) {
 			got := cover.Set(l, -1, x.high)
 			if len(got) != x.want || !slices.Equal(got, plainSet(l, -1, x.high)) {
 				t.Fatalf("P1801: Set of %v to %d has %d keys, want %d: %v", l, x.high, len(got), x.want, got)
@@ -431,9 +335,9 @@ func TestSetOfThoseTooShort(t *testing.T) {
 
 // TestSetOfAChain has every length within every other, at the edge of the words and at the end.
 func TestSetOfAChain(t *testing.T) {
-	for _, a := range samples {
-		l := chain(a)
-		for _, high := range lengths {
+	for _, a := range edges.Samples() {
+		l := edges.Chain(a)
+		for _, high := range edges.Lengths() {
 			for _, low := range []int{math.MinInt, -1, 0, high - 10, high - 9, high - 8, high - 3, high - 1, high, high + 1, math.MaxInt} {
 				set(t, "P1801: of a chain", l, low, high, plainSet(l, low, high))
 			}
@@ -443,9 +347,9 @@ func TestSetOfAChain(t *testing.T) {
 
 // TestWildBounds has bounds that no length is, with routes of all lengths.
 func TestWildBounds(t *testing.T) {
-	l := chain(samples[4])
-	for _, one := range wild {
-		for _, two := range append(slices.Clone(lengths), wild...) {
+	l := edges.Chain(edges.Samples()[4])
+	for _, one := range edges.Wild() {
+		for _, two := range append(edges.Lengths(), edges.Wild()...) {
 			set(t, "P1801: a level of no such length", l, two, one, nil)
 			want := []api.Route(nil)
 			if one < 0 && two >= 0 && two <= 128 {
@@ -456,39 +360,23 @@ func TestWildBounds(t *testing.T) {
 	}
 }
 
-// chance makes numbers that follow from itself.
-type chance uint64
-
-func (c *chance) next(n int) int {
-	*c = *c*6364136223846793005 + 1442695040888963407
-	return int(uint64(*c) >> 33 % uint64(n))
-}
-
-// near has a prefix that differs from a in some of the bits from at on, of at to at + 13 bits.
-func (c *chance) near(a api.Addr, at int) api.Prefix {
-	for range c.next(4) {
-		a = flip(a, min(at+c.next(12), 127))
-	}
-	return first(a, min(at+c.next(14), 128))
-}
-
 // story asks of routes by numbers that follow from seed, and tells all that was answered, or nothing where a plain form has it otherwise.
 func story(seed uint64, at, n int) []api.Route {
-	c := chance(seed)
-	a := samples[c.next(len(samples))]
+	c := edges.Chance(seed)
+	a := edges.Samples()[c.Next(len(edges.Samples()))]
 	var l []api.Route
 	for range n {
-		p := c.near(a, at)
-		if c.next(10) == 0 {
-			p = wrong[c.next(len(wrong))]
+		p := c.Near(a, at)
+		if c.Next(10) == 0 {
+			p = edges.Wrong()[c.Next(len(edges.Wrong()))]
 		}
-		l = append(l, api.Route{Prefix: p, Hop: c.next(40) - 5})
+		l = append(l, api.Route{Prefix: p, Hop: c.Next(40) - 5})
 	}
 	out := []api.Route{{Hop: 1}}
 	for range 20 {
-		k, low := c.near(a, at), at+c.next(16)-2
+		k, low := c.Near(a, at), at+c.Next(16)-2
 		got := said(cover.Hop(l, k, low))
-		high := low + c.next(13) - 1
+		high := low + c.Next(13) - 1
 		keys := cover.Set(l, low, high)
 		if got != plainHop(l, k, low) || !slices.Equal(keys, plainSet(l, low, high)) {
 			return nil
@@ -538,17 +426,9 @@ func TestManyRoutes(t *testing.T) {
 	}
 }
 
-// spoil turns all of a list, its spare room too.
-func spoil(l []api.Route) {
-	l = l[:cap(l)]
-	for i := range l {
-		l[i] = api.Route{Prefix: api.Prefix{Len: 77}, Hop: 999}
-	}
-}
-
 // TestWhatIsHandedInStays has lists with spare room, and pieces of a greater one.
 func TestWhatIsHandedInStays(t *testing.T) {
-	whole := chain(samples[5])
+	whole := edges.Chain(edges.Samples()[5])
 	slices.Reverse(whole)
 	whole = append(whole, whole...)
 	was := slices.Clone(whole)
@@ -556,7 +436,7 @@ func TestWhatIsHandedInStays(t *testing.T) {
 		for _, l := range [][]api.Route{whole[:i], whole[i:], whole[i/2 : i]} {
 			for _, high := range []int{8, 64, 128} {
 				cover.Set(l, high-9, high)
-				cover.Hop(l, first(samples[5], high), -1)
+				cover.Hop(l, edges.First(edges.Samples()[5], high), -1)
 			}
 			if !slices.Equal(whole, was) {
 				t.Fatalf("P1802: a list of %d was turned, or what is beside it", len(l))
@@ -567,16 +447,16 @@ func TestWhatIsHandedInStays(t *testing.T) {
 
 // TestWhatIsAnsweredIsNew turns answers, and lists that were handed in, with their spare room: neither is seen in the other, nor in another answer.
 func TestWhatIsAnsweredIsNew(t *testing.T) {
-	for _, n := range lengths {
-		l := chain(samples[5])
+	for _, n := range edges.Lengths() {
+		l := edges.Chain(edges.Samples()[5])
 		was := slices.Clone(l)
 		want := plainSet(l, n-1, n)
 		one, two := cover.Set(l, n-1, n), cover.Set(l, n-1, n)
-		spoil(one)
+		edges.Fill(one, edges.Route("1111", 999))
 		if !slices.Equal(l, was) || !slices.Equal(two, want) {
 			t.Fatalf("P1802: an answer of %d bits that was turned is seen in %v or %v", n, l, two)
 		}
-		spoil(l)
+		edges.Fill(l, edges.Route("1111", 999))
 		if !slices.Equal(two, want) {
 			t.Fatalf("P1802: a list that was turned is seen in %v", two)
 		}
@@ -586,7 +466,7 @@ func TestWhatIsAnsweredIsNew(t *testing.T) {
 
 // TestAnswersHangOnArgumentsAlone has many at once, all of them on one list.
 func TestAnswersHangOnArgumentsAlone(t *testing.T) {
-	l := chain(samples[4])
+	l := edges.Chain(edges.Samples()[4])
 	want := story(5, 58, 40)
 	keys := plainSet(l, 60, 66)
 	again := make([][]api.Route, 8)
@@ -597,7 +477,7 @@ func TestAnswersHangOnArgumentsAlone(t *testing.T) {
 		wait.Go(func() {
 			again[i] = story(5, 58, 40)
 			sets[i] = cover.Set(l, 60, 66)
-			found[i] = said(cover.Hop(l, first(samples[4], 128), -1))
+			found[i] = said(cover.Hop(l, edges.First(edges.Samples()[4], 128), -1))
 		})
 	}
 	wait.Wait()

@@ -7,6 +7,7 @@ import (
 	"testing"
 
 	"flocculus/api"
+	"flocculus/edges"
 	"flocculus/trie"
 )
 
@@ -339,7 +340,7 @@ func TestEveryOrder(t *testing.T) {
 		first(api.Addr{Hi: 0x10 << 56}, 4),
 	}
 	orders := 0
-	each(bush, func(order []api.Prefix) {
+	edges.Each(bush, func(order []api.Prefix) {
 		orders++
 		x, want := &trie.Trie{}, plain{}
 		for _, p := range order {
@@ -354,24 +355,6 @@ func TestEveryOrder(t *testing.T) {
 	if orders != 720 {
 		t.Fatalf("%d orders of 6", orders)
 	}
-}
-
-// each calls f with l in every order.
-func each(l []api.Prefix, f func([]api.Prefix)) {
-	var turn func(i int)
-	turn = func(i int) {
-		if i == len(l) {
-			f(slices.Clone(l))
-			return
-		}
-		for j := i; j < len(l); j++ {
-			l[i], l[j] = l[j], l[i]
-			turn(i + 1)
-			l[i], l[j] = l[j], l[i]
-		}
-	}
-	l = slices.Clone(l)
-	turn(0)
 }
 
 // TestCoverOfAChain asks for every pair of bounds that an edge has.

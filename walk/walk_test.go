@@ -7,6 +7,7 @@ import (
 	"testing"
 
 	"flocculus/api"
+	"flocculus/edges"
 	"flocculus/walk"
 )
 
@@ -86,24 +87,6 @@ func plain(l []api.Route) []api.Route {
 		}
 	}
 	return out
-}
-
-// each calls f with l in every order.
-func each(l []api.Route, f func([]api.Route)) {
-	var turn func(i int)
-	turn = func(i int) {
-		if i == len(l) {
-			f(slices.Clone(l))
-			return
-		}
-		for j := i; j < len(l); j++ {
-			l[i], l[j] = l[j], l[i]
-			turn(i + 1)
-			l[i], l[j] = l[j], l[i]
-		}
-	}
-	l = slices.Clone(l)
-	turn(0)
 }
 
 // chance makes numbers that follow from itself.
@@ -204,7 +187,7 @@ func TestTheLastOfOnePrefixCounts(t *testing.T) {
 	p, q, r := ascending[22], ascending[23], ascending[24]
 	l := routes([]api.Prefix{p, p, p, q, q, r})
 	orders := 0
-	each(l, func(l []api.Route) {
+	edges.Each(l, func(l []api.Route) {
 		orders++
 		sorted(t, "P1501: several of one prefix", l, plain(l))
 	})
@@ -247,7 +230,7 @@ func TestAlikeIsNotTheSame(t *testing.T) {
 		{Prefix: api.Prefix{Addr: api.Addr{Hi: a.Hi, Lo: 1}, Len: 8}, Hop: 1},
 		{Prefix: api.Prefix{Addr: api.Addr{Hi: a.Hi | 1}, Len: 8}, Hop: 1},
 	}
-	each(want, func(l []api.Route) { sorted(t, "P1501: alike", l, want) })
+	edges.Each(want, func(l []api.Route) { sorted(t, "P1501: alike", l, want) })
 }
 
 func TestManyRoutes(t *testing.T) {
