@@ -1,4 +1,4 @@
-// Package edges has what the tests of several packages ask about: addresses, lengths, prefixes and hops at the edges, short ways to write them, and all orders of a list.
+// Package edges has what the tests of several packages ask about: addresses, lengths, prefixes and hops at the edges, short ways to write them, configs, and all orders of a list.
 package edges
 
 import (
@@ -139,4 +139,22 @@ func (c *Chance) Near(a api.Addr, at int) api.Prefix {
 		a = Flip(a, min(at+c.Next(12), 127))
 	}
 	return First(a, min(at+c.Next(14), 128))
+}
+
+// Config has a config that an engine can be of, of any width, and levels that fit it.
+func (c *Chance) Config() (api.Config, []int) {
+	w := 1 + c.Next(128)
+	if c.Next(2) == 0 {
+		w = 1 + c.Next(20)
+	}
+	x := api.Config{Width: w, Direct: c.Next(min(w, 8) + 1), Stride: 1 + c.Next(6), Hashes: 1 + c.Next(4), Least: 1 + c.Next(40), Buckets: 1 + c.Next(4), Routes: c.Next(301), Hops: c.Next(61)}
+	var l []int
+	for n := x.Direct; n < w; {
+		n = min(w, n+1+c.Next(x.Stride))
+		l = append(l, n)
+	}
+	need := max(len(l), (w-x.Direct+x.Stride-1)/x.Stride)
+	x.Levels = need + c.Next(129-need)
+	x.Bits = x.Least*max(1, x.Levels) + c.Next(2000)
+	return x, l
 }

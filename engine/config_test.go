@@ -382,7 +382,7 @@ func plainSizes(c api.Config, l, counts []int) []int {
 func TestFilterBitsAgainstAPlainForm(t *testing.T) {
 	for start := range uint64(600) {
 		r := edges.Chance(start)
-		c, l := anyConfig(&r)
+		c, l := r.Config()
 		c.Bits = c.Least*max(1, c.Levels) + r.Next([]int{1, 300, 1 << 20, 1 << 29}[r.Next(4)])
 		counts := make([]int, r.Next(140))
 		for i := range counts {
@@ -390,22 +390,4 @@ func TestFilterBitsAgainstAPlainForm(t *testing.T) {
 		}
 		sized(t, "P2201", c, l, counts, plainSizes(c, l, counts))
 	}
-}
-
-// anyConfig makes a config of any width, and levels that fit it.
-func anyConfig(r *edges.Chance) (api.Config, []int) {
-	w := 1 + r.Next(128)
-	if r.Next(2) == 0 {
-		w = 1 + r.Next(20)
-	}
-	c := api.Config{Width: w, Direct: r.Next(min(w, 8) + 1), Stride: 1 + r.Next(6), Hashes: 1 + r.Next(4), Least: 1 + r.Next(40), Buckets: 1 + r.Next(4), Routes: r.Next(301), Hops: r.Next(61)}
-	var l []int
-	for n := c.Direct; n < w; {
-		n = min(w, n+1+r.Next(c.Stride))
-		l = append(l, n)
-	}
-	need := max(len(l), (w-c.Direct+c.Stride-1)/c.Stride)
-	c.Levels = need + r.Next(129-need)
-	c.Bits = c.Least*max(1, c.Levels) + r.Next(2000)
-	return c, l
 }

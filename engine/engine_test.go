@@ -344,7 +344,7 @@ func TestNoLevels(t *testing.T) {
 func TestLookCutsToTheWidth(t *testing.T) {
 	for start := range uint64(100) {
 		r := edges.Chance(start)
-		c, l := anyConfig(&r)
+		c, l := r.Config()
 		e := made(t, c, start, l, nil)
 		x := edges.Samples()[r.Next(len(edges.Samples()))]
 		for range 10 {
@@ -462,7 +462,7 @@ type met struct {
 // story turns an engine and its plain form by numbers that follow from start, and tells what it came by, and whether both did alike all along.
 func story(start uint64) (*engine.Engine, met, bool) {
 	r := edges.Chance(start)
-	c, l := anyConfig(&r)
+	c, l := r.Config()
 	seed := []uint64{0, 7, 1 << 63, math.MaxUint64, start * 0x9E3779B97F4A7C15}[r.Next(5)]
 	counts := make([]int, r.Next(140))
 	for i := range counts {
@@ -540,7 +540,7 @@ func TestAgainstAPlainForm(t *testing.T) {
 func TestTheKeysAtEachStep(t *testing.T) {
 	for start := range uint64(150) {
 		r := edges.Chance(start)
-		c, l := anyConfig(&r)
+		c, l := r.Config()
 		e := made(t, c, start, l, nil)
 		x := edges.Samples()[r.Next(len(edges.Samples()))]
 		stand := map[api.Prefix]int{}
